@@ -5,7 +5,7 @@ import "strconv"
 // MaxValue is the largest integer that the encodings of this module carry.
 const MaxValue = 1000000000000
 
-// sought is the end of the order at which extreme looks: smallest or largest.
+// sought has a method so that only the two ends of the order, smallest and largest, can be asked for.
 type sought interface {
 	isSought()
 }
@@ -18,12 +18,10 @@ func (smallest) isSought() {}
 
 func (largest) isSought() {}
 
-// FormatInt returns the decimal representation of n.
 func FormatInt(n int) string {
 	return strconv.Itoa(n)
 }
 
-// ParseInt returns the integer from 0 to MaxValue whose FormatInt is s, and true; 0 and false if there is none.
 func ParseInt(s string) (int, bool) {
 	n, err := strconv.Atoi(s)
 	if err != nil || !InRange(n, 0, MaxValue) {
@@ -36,17 +34,14 @@ func ParseInt(s string) (int, bool) {
 	return n, true
 }
 
-// Min returns the smaller one of a and b.
 func Min(a int, b int) int {
 	return extreme(smallest{}, a, b)
 }
 
-// Max returns the larger one of a and b.
 func Max(a int, b int) int {
 	return extreme(largest{}, a, b)
 }
 
-// CeilDiv returns a divided by b, rounded up; 0 if a or b is out of its range.
 func CeilDiv(a int, b int) int {
 	if !InRange(a, 0, MaxValue) || !InRange(b, 1, MaxValue) {
 		return 0
@@ -54,7 +49,6 @@ func CeilDiv(a int, b int) int {
 	return (a + b - 1) / b
 }
 
-// Mod returns the remainder of p modulo q from 0 to q-1, also for negative p; 0 if q is out of its range.
 func Mod(p int, q int) int {
 	if !InRange(q, 1, MaxValue) {
 		return 0
@@ -67,7 +61,6 @@ func Mod(p int, q int) int {
 	return r
 }
 
-// InRange reports whether low <= n and n <= high.
 func InRange(n int, low int, high int) bool {
 	return low <= n && n <= high
 }
@@ -83,7 +76,6 @@ func extreme(s sought, first int, rest ...int) int {
 	return best
 }
 
-// isCloser reports whether a is closer than b to the end that is sought.
 func isCloser(s sought, a int, b int) bool {
 	switch s.(type) {
 	case smallest:
