@@ -12,16 +12,22 @@ import (
 
 const mark = 0xa5
 
-// spared returns a copy of b with marked spare capacity behind it.
+// withSpare returns a copy of l with spare capacity behind it, which is filled with m.
+func withSpare[E any](l []E, m E) []E {
+	return slices.Concat(l, slices.Repeat([]E{m}, 16))[:len(l)]
+}
+
+// isWithSpare reports whether l, which withSpare returned for want, is as it was.
+func isWithSpare[E comparable](l []E, want []E, m E) bool {
+	return slices.Equal(l, want) && slices.Equal(l[len(l):len(l)+16], slices.Repeat([]E{m}, 16))
+}
+
 func spared(b []byte) []byte {
-	whole := append(bytes.Clone(b), bytes.Repeat([]byte{mark}, 16)...)
-	return whole[:len(b)]
+	return withSpare(b, mark)
 }
 
 func isUntouched(b []byte, want []byte) bool {
-	spare := b[len(b):cap(b)]
-	marked := spare[:min(16, len(spare))]
-	return bytes.Equal(b, want) && bytes.Equal(marked, bytes.Repeat([]byte{mark}, 16))
+	return isWithSpare(b, want, mark)
 }
 
 // spoil changes everything that a result may reach.

@@ -59,16 +59,12 @@ func someTexts() [][]byte {
 	}
 }
 
-// sparedInts returns a copy of values with marked spare capacity behind it.
 func sparedInts(values []int) []int {
-	whole := append(slices.Clone(values), slices.Repeat([]int{mark}, 16)...)
-	return whole[:len(values)]
+	return withSpare(values, mark)
 }
 
 func areUntouched(values []int, want []int) bool {
-	spare := values[len(values):cap(values)]
-	marked := spare[:min(16, len(spare))]
-	return slices.Equal(values, want) && slices.Equal(marked, slices.Repeat([]int{mark}, 16))
+	return isWithSpare(values, want, mark)
 }
 
 func TestModulus(t *testing.T) {

@@ -30,24 +30,24 @@ func timed(f impl.Fact, at, until int) impl.Fact {
 	return f
 }
 
-func withFact(s []impl.Fact, place int, f impl.Fact) []impl.Fact {
-	return slices.Concat(s[:place], []impl.Fact{f}, s[place:])
+func with[E any](l []E, place int, x E) []E {
+	return slices.Concat(l[:place], []E{x}, l[place:])
 }
 
-func withoutFact(s []impl.Fact, place int) []impl.Fact {
-	return slices.Concat(s[:place], s[place+1:])
+func without[E any](l []E, place int) []E {
+	return slices.Concat(l[:place], l[place+1:])
 }
 
-func markedFacts() []impl.Fact {
-	return slices.Repeat([]impl.Fact{{Kind: mark, Subject: mark, Value: mark, Issuer: mark, At: mark, Until: mark}}, 16)
+func markedFact() impl.Fact {
+	return impl.Fact{Kind: mark, Subject: mark, Value: mark, Issuer: mark, At: mark, Until: mark}
 }
 
 func sparedFacts(s []impl.Fact) []impl.Fact {
-	return slices.Concat(s, markedFacts())[:len(s)]
+	return withSpare(s, markedFact())
 }
 
 func areFactsUntouched(s []impl.Fact, want []impl.Fact) bool {
-	return slices.Equal(s, want) && slices.Equal(s[len(s):len(s)+16], markedFacts())
+	return isWithSpare(s, want, markedFact())
 }
 
 // spoilFacts changes everything that a result may reach.
@@ -164,13 +164,13 @@ func TestStoresThatAreSpoiledAtOnePlace(t *testing.T) {
 	store := listedClaims()[:maxFacts-1]
 	for place, f := range store {
 		for _, bad := range noFacts() {
-			if s := withFact(withoutFact(store, place), place, bad); impl.IsStore(s) {
+			if s := with(without(store, place), place, bad); impl.IsStore(s) {
 				t.Errorf("with %v at %d it is a store", bad, place)
 			}
 		}
 		for _, late := range []impl.Fact{f, timed(f, 99, 200), timed(f, 101, 200), timed(f, 100, 199), timed(f, 100, 201)} {
 			for other := 0; other <= len(store); other++ {
-				if s := withFact(store, other, late); impl.IsStore(s) {
+				if s := with(store, other, late); impl.IsStore(s) {
 					t.Errorf("with %v again at %d it is a store", late, other)
 				}
 			}
@@ -207,7 +207,7 @@ func TestPutFactAtEveryPlace(t *testing.T) {
 	for n := 1; n <= maxFacts; n++ {
 		want := listedClaims()[:n]
 		for place, f := range want {
-			s := withoutFact(want, place)
+			s := without(want, place)
 			got, ok := impl.PutFact(s, f)
 			if !ok || !slices.Equal(got, want) || !impl.IsStore(got) {
 				t.Errorf("PutFact(%v, %v) = %v, %v", s, f, got, ok)
@@ -339,13 +339,13 @@ func TestPutFactOfAnotherClaim(t *testing.T) {
 func TestPutFactIntoAFullStore(t *testing.T) {
 	facts := listedClaims()
 	for lacked := range facts[:maxFacts+1] {
-		s := withoutFact(facts[:maxFacts+1], lacked)
+		s := without(facts[:maxFacts+1], lacked)
 		got, ok := impl.PutFact(s, facts[lacked])
 		if ok || !slices.Equal(got, s) {
 			t.Errorf("PutFact of %v into a full store = %v, %v", facts[lacked], got, ok)
 		}
 		got, ok = impl.PutFact(s, timed(s[0], 100, 201))
-		if want := withFact(s[1:], 0, timed(s[0], 100, 201)); !ok || !slices.Equal(got, want) {
+		if want := with(s[1:], 0, timed(s[0], 100, 201)); !ok || !slices.Equal(got, want) {
 			t.Errorf("PutFact of a claim that it has into a full store = %v, %v", got, ok)
 		}
 	}
@@ -583,8 +583,8 @@ func TestDropPast(t *testing.T) {
 		{0, s},
 		{-1, s},
 		{math.MinInt, s},
-		{1, withoutFact(s, 4)},
-		{18, withoutFact(s, 4)},
+		{1, without(s, 4)},
+		{18, without(s, 4)},
 		{19, []impl.Fact{s[0], s[1], s[2], s[3], s[5]}},
 		{20, []impl.Fact{s[0], s[2], s[3], s[5]}},
 		{21, []impl.Fact{s[2], s[5]}},

@@ -120,16 +120,16 @@ func areIssuersUntouched(l []impl.Issuer, want []impl.Issuer) bool {
 	return len(l) == len(want)
 }
 
-func markedStatements() []impl.Stated {
-	return slices.Repeat([]impl.Stated{{Fact: markedFacts()[0], Mark: mark}}, 16)
+func markedStatement() impl.Stated {
+	return impl.Stated{Fact: markedFact(), Mark: mark}
 }
 
 func sparedStatements(list []impl.Stated) []impl.Stated {
-	return slices.Concat(list, markedStatements())[:len(list)]
+	return withSpare(list, markedStatement())
 }
 
 func areStatementsUntouched(list []impl.Stated, want []impl.Stated) bool {
-	return slices.Equal(list, want) && slices.Equal(list[len(list):len(list)+16], markedStatements())
+	return isWithSpare(list, want, markedStatement())
 }
 
 func TestMaxIssuers(t *testing.T) {
@@ -674,7 +674,7 @@ func TestTakeStated(t *testing.T) {
 		"not the one between":   {nil, []impl.Stated{says(facts[0]), wrong(facts[1]), says(facts[2])}, []impl.Fact{facts[0], facts[2]}, 2},
 		"full, a new claim":     {facts[:30], []impl.Stated{says(facts[30])}, facts[:30], 0},
 		"full, two new claims":  {facts[2:], []impl.Stated{says(facts[0]), says(facts[1])}, facts[2:], 0},
-		"full, a known claim":   {facts[:30], []impl.Stated{says(facts[30]), says(newer), says(facts[31])}, withFact(withoutFact(facts[:30], 1), 1, newer), 1},
+		"full, a known claim":   {facts[:30], []impl.Stated{says(facts[30]), says(newer), says(facts[31])}, with(without(facts[:30], 1), 1, newer), 1},
 		"full, the same claims": {facts[:30], []impl.Stated{says(facts[0]), says(facts[29]), says(facts[30])}, facts[:30], 2},
 		"nearly full":           {facts[:29], []impl.Stated{says(facts[31]), says(facts[30]), says(facts[29])}, slices.Concat(facts[:29], facts[31:]), 1},
 		"nearly full, wrong":    {facts[:29], []impl.Stated{wrong(facts[31]), says(facts[30]), says(facts[29])}, slices.Concat(facts[:29], facts[30:31]), 1},
