@@ -78,6 +78,14 @@ func changedCerts(x impl.Cert, d int) []impl.Cert {
 	return l
 }
 
+// either is y if this part is in the set, and x otherwise.
+func either(set, part, x, y int) int {
+	if set>>part&1 == 1 {
+		return y
+	}
+	return x
+}
+
 // timesAround holds the times at and next to both ends of the spans of these certificates, and those at the ends of all times.
 func timesAround(certs ...impl.Cert) []int {
 	times := append(timesAtTheEnds(), noTimes()...)
@@ -468,24 +476,13 @@ func TestMixedCertificatesAreNotGood(t *testing.T) {
 	x := withMark(7, impl.Cert{Serial: 1, Subject: 20, Key: 200, From: 5, Until: 15})
 	y := withMark(7, impl.Cert{Serial: 2, Subject: 30, Key: 201, From: 6, Until: 16})
 	for set := range 1 << 6 {
-		z := x
-		if set&1 != 0 {
-			z.Serial = y.Serial
-		}
-		if set&2 != 0 {
-			z.Subject = y.Subject
-		}
-		if set&4 != 0 {
-			z.Key = y.Key
-		}
-		if set&8 != 0 {
-			z.From = y.From
-		}
-		if set&16 != 0 {
-			z.Until = y.Until
-		}
-		if set&32 != 0 {
-			z.Mark = y.Mark
+		z := impl.Cert{
+			Serial:  either(set, 0, x.Serial, y.Serial),
+			Subject: either(set, 1, x.Subject, y.Subject),
+			Key:     either(set, 2, x.Key, y.Key),
+			From:    either(set, 3, x.From, y.From),
+			Until:   either(set, 4, x.Until, y.Until),
+			Mark:    either(set, 5, x.Mark, y.Mark),
 		}
 		if got, want := impl.CheckCert(7, z, 10), z == x || z == y; got != want {
 			t.Errorf("CheckCert of %v = %v", z, got)
