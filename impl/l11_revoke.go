@@ -33,7 +33,7 @@ func AddRevoked(l []Revoked, serial int, at int) ([]Revoked, bool) {
 			return added, true
 		}
 	}
-	return copyRevoked(l), false
+	return copyOf(l), false
 }
 
 func RevokedAt(l []Revoked, serial int) int {
@@ -45,7 +45,7 @@ func IsRevoked(l []Revoked, serial int, now int) bool {
 }
 
 func MergeRevoked(a []Revoked, b []Revoked) []Revoked {
-	merged := copyRevoked(a)
+	merged := copyOf(a)
 	for _, x := range b {
 		merged, _ = AddRevoked(merged, x.Serial, x.At)
 	}
@@ -60,10 +60,6 @@ func KnowsMore(a []Revoked, b []Revoked) bool {
 		}
 	}
 	return true
-}
-
-func copyRevoked(l []Revoked) []Revoked {
-	return append([]Revoked{}, l...)
 }
 
 func revocationsOf(l []Revoked) revocations {
@@ -88,7 +84,7 @@ func (r revocations) isRevoked(serial int, now int) bool {
 
 // with relies on the list being in order.
 func (r revocations) with(x Revoked) []Revoked {
-	list := copyRevoked(r.list)
+	list := copyOf(r.list)
 	place := r.lookUp(x.Serial)
 	if place == noPlace {
 		return slices.Insert(list, placeOf(list, x, Revoked.isBefore), x)

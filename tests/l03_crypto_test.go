@@ -67,6 +67,14 @@ func areUntouched(values []int, want []int) bool {
 	return isWithSpare(values, want, mark)
 }
 
+// spoilInts changes everything that a result may reach.
+func spoilInts(values []int) {
+	values = values[:cap(values)]
+	for i := range values {
+		values[i] += 1000
+	}
+}
+
 func TestModulus(t *testing.T) {
 	if impl.Modulus != modulus {
 		t.Errorf("Modulus is %d", impl.Modulus)

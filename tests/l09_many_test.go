@@ -849,9 +849,7 @@ func TestFactsThatWereAskedAreAsTheyWere(t *testing.T) {
 			for _, age := range []int{-1, 0, 3, 100, maxTime + 1} {
 				for _, f := range append(slices.Clone(list), states(0, 0, 0)) {
 					who := impl.WhoState(s, f.Kind, f.Subject, f.Value, now, age)
-					for i := range who[:cap(who)] {
-						who[:cap(who)][i] += 1000
-					}
+					spoilInts(who)
 					impl.IsAccepted(s, f.Kind, f.Subject, f.Value, now, age, 1)
 					impl.AcceptedUntil(s, f.Kind, f.Subject, f.Value, now, age, 1)
 					impl.LastOf(f, age)
@@ -868,9 +866,7 @@ func TestWhoStateIsNewEachTime(t *testing.T) {
 	s := threeWhoAgree()
 	first := whoStates(s, 8, 3)
 	second := whoStates(s, 8, 3)
-	for i := range first[:cap(first)] {
-		first[:cap(first)][i] = mark
-	}
+	spoilInts(first)
 	for _, got := range [][]int{second, whoStates(s, 8, 3)} {
 		if !slices.Equal(got, []int{0, 1, 2}) {
 			t.Errorf("WhoState has become %v", got)
